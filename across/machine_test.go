@@ -306,7 +306,7 @@ func TestManyFights(t *testing.T) {
 			w.m.Step(draw(len(w.code)))
 		}
 		w.serial()
-		for th := range w.code { // those that kill each other again and again come to the end of the attempts
+		for th := range w.code { // those that abort each other again and again come to the end of the attempts
 			if w.m.StateOf(th) != api.Halted && w.m.Errno(th) != api.ErrSpace {
 				t.Fatalf("thread %d is %d behind so many steps", th, w.m.StateOf(th))
 			}
